@@ -295,7 +295,7 @@ func small() (out map[uint64]known) {
 	return out
 }
 
-// mersenne is a point of order 2^power on y^2 = x^3 + x modulo P, 2^size - 1: -1 is no square, so as many x have points as -x have none, and P + 1 points are there; but one of them has Y 0, so some point has all as its order, and the half of what is not twice a point is none either.
+// mersenne is a point of order 2^power on y^2 = x^3 + x modulo a prime P that is 2^size - 1: -1 is no square there, so of x and -x that are not 0 just one has points, and there are P + 1 with O and (0, 0). One alone has a Y of 0, so some have 2^size as their order: those of which the half as many are not O.
 func mersenne(size, power int) known {
 	c := api.Curve{P: less(oneAt(size), 1), A: nat.Of(1)}
 	half, times := oneAt(size-1), oneAt(size-power)
